@@ -94,6 +94,10 @@ func (b book) ledger() Ledger {
 	return Ledger{Texts: b.texts.items, Signs: b.signs.items}
 }
 
+func (b book) hasSign(key int64, id int64) bool {
+	return b.signs.numberOf(Sign{Key: key, Id: id}) != 0
+}
+
 func isWithin(number int64, low int64, high int64) bool {
 	return low <= number && number <= high
 }
@@ -210,7 +214,7 @@ func SignId(l Ledger, key int64, id int64) LedgerResult {
 
 func HasSign(l Ledger, key int64, id int64) bool {
 	b, code := readLedger(l)
-	return code == OK && b.signs.numberOf(Sign{Key: key, Id: id}) != 0
+	return code == OK && b.hasSign(key, id)
 }
 
 func SignsOf(l Ledger, id int64) IntsResult {

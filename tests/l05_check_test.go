@@ -113,18 +113,23 @@ func plainUndo(coins []impl.Coin, tx impl.Tx, id int64, spent []impl.Coin) impl.
 		}
 	}
 	var left []impl.Coin
-	var made []impl.Out
+	made := map[int64]impl.Out{}
 	taken := false
 	for _, coin := range coins {
 		taken = taken || slices.Contains(tx.Ins, coin.Ref)
 		if coin.Ref.Tx == id {
-			made = append(made, coin.Out)
+			made[coin.Ref.At] = coin.Out
 		} else {
 			left = append(left, coin)
 		}
 	}
-	if !plainSameTxs(pay(nil, made...), pay(nil, tx.Outs...)) {
+	if len(made) != len(tx.Outs) {
 		return fail(impl.ErrNone)
+	}
+	for at, out := range tx.Outs {
+		if !plainSameTxs(pay(nil, made[int64(at)]), pay(nil, out)) {
+			return fail(impl.ErrNone)
+		}
 	}
 	if taken {
 		return fail(impl.ErrTaken)
@@ -772,6 +777,65 @@ func TestUndoOfEachNumber(t *testing.T) {
 	}
 	own = pay(refsOf(7, 3), outOf(5, 2))
 	if r := impl.UndoTx([]impl.Coin{coinOf(7, 0, 5, 2)}, own, 7, []impl.Coin{coinOf(7, 3, 9, 9)}); !sameCoinsResults(r, impl.CoinsResult{Coins: []impl.Coin{coinOf(7, 3, 9, 9)}}) {
+		t.Error(r)
+	}
+}
+
+// A coin of a place that Outs have not is none that they made, however much it is like one of them.
+func TestUndoOfCoinsAtOtherPlaces(t *testing.T) {
+	spent := []impl.Coin{coinOf(1, 0, 10, 2)}
+	others := []impl.Coin{coinOf(2, 0, 5, 2), coinOf(19, 3, 5, 2), coinOf(21, 0, 5, 2), coinOf(60, 1, 5, 2)}
+	for outs := 1; outs <= 4; outs++ {
+		tx := pay(refsOf(1, 0), slices.Repeat([]impl.Out{outOf(5, 2)}, outs)...)
+		for places := range 16 {
+			var alone []impl.Coin
+			for at := int64(0); at < 4; at++ {
+				if places>>at&1 == 1 {
+					alone = append(alone, coinOf(20, at, 5, 2))
+				}
+			}
+			among := slices.Concat(others[:2], alone, others[2:])
+			wantAlone, wantAmong := impl.CoinsResult{Code: impl.ErrNone}, impl.CoinsResult{Code: impl.ErrNone}
+			// Just the lowest places, one for each of Outs.
+			if places == 1<<outs-1 {
+				wantAlone, wantAmong = impl.CoinsResult{Coins: spent}, impl.CoinsResult{Coins: slices.Concat(spent, others)}
+			}
+			if r := impl.UndoTx(alone, tx, 20, spent); !sameCoinsResults(r, wantAlone) {
+				t.Errorf("%d outs, places %04b: %v, want %v", outs, places, r, wantAlone)
+			}
+			if r := impl.UndoTx(among, tx, 20, spent); !sameCoinsResults(r, wantAmong) {
+				t.Errorf("%d outs, places %04b, among others: %v, want %v", outs, places, r, wantAmong)
+			}
+			holdUndoAgainstPlain(t, alone, tx, 20, spent)
+			holdUndoAgainstPlain(t, among, tx, 20, spent)
+		}
+	}
+	// Outs that are not alike: the coins are all there, each at the place of another one, or one place on.
+	tx := pay(refsOf(1, 0), outOf(3, 2), outOf(4, 2), outOf(5, 2))
+	listsOf([]int64{0, 1, 2, 3}, 3, func(at []int64) {
+		var coins []impl.Coin
+		for i, place := range at {
+			coins = append(coins, coinOf(20, place, int64(3+i), 2))
+		}
+		slices.SortFunc(coins, func(a, b impl.Coin) int { return int(a.Ref.At - b.Ref.At) })
+		if plainCoinsFault(coins) != impl.OK {
+			return
+		}
+		want := int64(impl.ErrNone)
+		if slices.Equal(at, []int64{0, 1, 2}) {
+			want = impl.OK
+		}
+		if r := impl.UndoTx(coins, tx, 20, spent); r.Code != want {
+			t.Errorf("places %v: %v, want %d", at, r, want)
+		}
+	})
+	// The places come behind what is spent, and ahead of a coin of Ins that is there.
+	coins := []impl.Coin{coinOf(1, 0, 10, 2), coinOf(20, 1, 5, 2)}
+	lone := pay(refsOf(1, 0), outOf(5, 2))
+	if r := impl.UndoTx(coins, lone, 20, spent); r.Code != impl.ErrNone {
+		t.Error(r)
+	}
+	if r := impl.UndoTx(coins, lone, 20, nil); r.Code != impl.ErrForm {
 		t.Error(r)
 	}
 }

@@ -184,15 +184,20 @@ func NoteText(l Ledger, text string) LedgerResult {
 	return LedgerResult{Id: b.texts.numberOf(text), Ledger: b.ledger()}
 }
 
+// textOf is apart from TextOf so that who asks for many texts reads the ledger once.
+func (b book) textOf(id int64) TextResult {
+	if !b.texts.hasNumber(id) {
+		return TextResult{Code: ErrRange}
+	}
+	return TextResult{Text: b.texts.itemOf(id)}
+}
+
 func TextOf(l Ledger, id int64) TextResult {
 	b, code := readLedger(l)
 	if code != OK {
 		return TextResult{Code: code}
 	}
-	if !b.texts.hasNumber(id) {
-		return TextResult{Code: ErrRange}
-	}
-	return TextResult{Text: b.texts.itemOf(id)}
+	return b.textOf(id)
 }
 
 func SignId(l Ledger, key int64, id int64) LedgerResult {

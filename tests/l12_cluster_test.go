@@ -845,13 +845,15 @@ func TestClusterFault(t *testing.T) {
 	}
 }
 
-// Of each two faults the one that is named first is told.
-func TestTheOrderOfClusterFaults(t *testing.T) {
-	faults := []struct {
-		name   string
-		code   int64
-		change func(c *impl.Cluster)
-	}{
+type clusterChange struct {
+	name   string
+	code   int64
+	change func(c *impl.Cluster)
+}
+
+// orderedClusterFaults are those of the ordinary cluster, in the order in which they are asked.
+func orderedClusterFaults() []clusterChange {
+	return []clusterChange{
 		{"Need 0", impl.ErrRange, func(c *impl.Cluster) { c.Quorum.Need = 0 }},
 		{"22 Bad", impl.ErrMany, func(c *impl.Cluster) { c.Bad = append(c.Bad, firstKeys(999)[901:921]...) }},
 		{"101 Votes", impl.ErrMany, func(c *impl.Cluster) { c.Votes = append(c.Votes, forgedVotes(91)...) }},
@@ -865,6 +867,12 @@ func TestTheOrderOfClusterFaults(t *testing.T) {
 		{"a place of 999", impl.ErrRange, func(c *impl.Cluster) { c.Heard[1] = append(c.Heard[1], 999) }},
 		{"a place twice of the last hearer", impl.ErrTaken, func(c *impl.Cluster) { c.Heard[2] = append(c.Heard[2], 9) }},
 	}
+}
+
+// clustersWithTwoFaults have the code of the one that is named first.
+func clustersWithTwoFaults() []clusterRow {
+	var rows []clusterRow
+	faults := orderedClusterFaults()
 	for i, first := range faults {
 		for _, second := range faults[i:] {
 			c := clusterWith(func(c *impl.Cluster) {
@@ -873,9 +881,17 @@ func TestTheOrderOfClusterFaults(t *testing.T) {
 					second.change(c)
 				}
 			})
-			if got := holdFaultAgainstPlain(t, c); got != first.code {
-				t.Errorf("%s, %s: %d, want %d", first.name, second.name, got, first.code)
-			}
+			rows = append(rows, clusterRow{first.name + ", " + second.name, c, first.code})
+		}
+	}
+	return rows
+}
+
+// Of each two faults the one that is named first is told.
+func TestTheOrderOfClusterFaults(t *testing.T) {
+	for _, row := range clustersWithTwoFaults() {
+		if got := holdFaultAgainstPlain(t, row.cluster); got != row.code {
+			t.Errorf("%s: %d, want %d", row.name, got, row.code)
 		}
 	}
 }

@@ -1482,18 +1482,23 @@ func TestAnswersOfChainsShareNoMemory(t *testing.T) {
 		if !sameChainResults(one, two) {
 			t.Fatalf("%s: %v, and then %v", call.name, one, two)
 		}
-		parts := slices.Concat(chainMemories(one.Chain), chainMemories(two.Chain), chainMemories(c))
-		was := toldOf(parts)
-		for i, part := range parts {
-			part.spoil()
-			now := toldOf(parts)
-			for j := range parts {
-				if i != j && was[j] != now[j] {
-					t.Errorf("%s: who writes to one list writes to another one: %s, it was %s", call.name, now[j], was[j])
-				}
+		holdOwnMemory(t, call.name, slices.Concat(chainMemories(one.Chain), chainMemories(two.Chain), chainMemories(c)))
+	}
+}
+
+// holdOwnMemory writes over each list: no other one may be told otherwise then.
+func holdOwnMemory(t *testing.T, name string, parts []memory) {
+	t.Helper()
+	was := toldOf(parts)
+	for i, part := range parts {
+		part.spoil()
+		now := toldOf(parts)
+		for j := range parts {
+			if i != j && was[j] != now[j] {
+				t.Errorf("%s: who writes to one list writes to another one: %s, it was %s", name, now[j], was[j])
 			}
-			was = now
 		}
+		was = now
 	}
 }
 
